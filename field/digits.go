@@ -1,0 +1,17 @@
+package field
+
+import (
+	"iter"
+	"math/bits"
+)
+
+// digits goes through the bits of n, the highest first, and tells which are set. Those ahead of the first one that is set are left out: 1 times itself is 1, so a power does not hang on them.
+func digits(n uint64) iter.Seq[bool] {
+	return func(yield func(bool) bool) {
+		for place := bits.Len64(n) - 1; place >= 0; place-- {
+			if !yield(n>>place&1 == 1) {
+				return
+			}
+		}
+	}
+}
