@@ -200,6 +200,28 @@ func TestApplyWhenTakenOver(t *testing.T) {
 	}
 }
 
+// P14.3: what is taken over for its next committee, its final header not above the store's, makes Newest another one only by those that sign.
+func TestApplyNewestStays(t *testing.T) {
+	for _, c := range []struct {
+		newest, final, seen uint64
+		last                int
+		want                bool
+	}{
+		{4, 9, 12, 22, false}, {4, 10, 12, 22, false}, {0, 0, 11, 22, false}, {9, 10, 12, 22, false}, {10, 9, 12, 22, false},
+		{4, 9, 12, 0, true}, {4, 10, 12, 0, true}, {9, 7, 10, 0, true}, {9, 7, 8, 0, false}, {9, 7, 9, 0, false},
+	} {
+		p := plan{seen: c.seen, slot: 20, isFinal: true, final: c.final, next: 2, bits: bitsOf(11), by: 1}
+		s, u := storeOf(10, 1, 0), p.update()
+		s.Newest, s.Last = lightOf(c.newest, zeros), c.last
+		want := taken(s, u, 11)
+		want.Final = s.Final
+		if !c.want {
+			want.Newest = s.Newest
+		}
+		expectApply(t, fmt.Sprint(c), s, u, 20, want)
+	}
+}
+
 // P14.3: a final header that only a sum of a next committee stands beside gives none.
 func TestApplySumAlone(t *testing.T) {
 	p := plan{seen: 9, slot: 10, isFinal: true, final: 5, bits: everyone, by: 1}

@@ -12,7 +12,7 @@ import (
 
 const (
 	firstFork = 7 // the number in the text that is signed, till the first fork
-	mostForks = 9 // that are told by it
+	lastFork  = 9 // and behind the last one that it tells
 )
 
 // slotsFollow tells whether an update's slots do, up to now. One that is not final has an empty Final, of the slot 0.
@@ -79,8 +79,8 @@ func isSigned(s api.Store, u api.Update) bool {
 
 // text is what is signed of a header's root, in a slot. That is above the header's, and so not 0.
 func text(root string, slot uint64) string {
-	forks := (slot - 1) / api.Fork
-	return sha.Sum(root, ssz.Number(firstFork+min(forks, mostForks)))
+	fork := firstFork + (slot-1)/api.Fork
+	return sha.Sum(root, ssz.Number(min(fork, lastFork)))
 }
 
 // keys are those of a committee's members that sign an update. One that the committee has not got has no point's bytes as its key, so that nothing holds of them.

@@ -15,12 +15,12 @@ func forcible(slot uint64, next int, p plan) api.Store {
 	return s
 }
 
-// forced is the store with another final header, without a best one.
+// forced is the store with another final header, or with its own one, without a best one.
 func forced(s api.Store, final api.Light) api.Store {
-	s.Final, s.Best, s.Has, s.Forced = final, api.Update{}, false, true
-	if final.Beacon.Slot > s.Newest.Beacon.Slot {
+	if final.Beacon.Slot > max(s.Final.Beacon.Slot, s.Newest.Beacon.Slot) {
 		s.Newest = final
 	}
+	s.Final, s.Best, s.Has, s.Forced = final, api.Update{}, false, true
 	return s
 }
 
@@ -133,6 +133,41 @@ func TestForceNotAbove(t *testing.T) {
 		want.Next = committee(3)
 		expectForce(t, fmt.Sprint("Seen at ", c.seen, ", Next known"), s, 131, want)
 	}
+}
+
+// P14.4: Newest is another one only together with Final, though it stood below the store's.
+func TestForceNewest(t *testing.T) {
+	for _, c := range []struct {
+		final, newest, best, seen, wantFinal, wantNewest uint64
+	}{
+		{1, 0, 0, 0, 1, 0},
+		{10, 4, 9, 10, 10, 4}, {10, 4, 0, 7, 10, 4}, {10, 4, 10, 10, 10, 4}, {10, 4, 4, 5, 10, 4}, {10, 9, 8, 10, 10, 9}, {10, 10, 8, 10, 10, 10},
+		{10, 4, 9, 11, 11, 11}, {10, 10, 9, 11, 11, 11}, {10, 11, 9, 11, 11, 11}, {10, 12, 9, 11, 11, 12},
+		{10, 4, 12, 13, 12, 12}, {10, 11, 12, 13, 12, 12}, {10, 12, 12, 13, 12, 12}, {10, 20, 12, 13, 12, 20},
+	} {
+		for _, known := range []int{0, 2} {
+			s := forcible(c.final, known, plan{seen: c.seen, slot: 20, isFinal: true, final: c.best, bits: bitsOf(3), by: 1})
+			s.Newest = lightOf(c.newest, zeros)
+			want := s
+			want.Best, want.Has, want.Forced = api.Update{}, false, true
+			if c.wantFinal != c.final {
+				want.Final = lightOf(c.wantFinal, made(32, 8))
+			}
+			if c.wantFinal == c.seen && c.seen != c.final {
+				want.Final = s.Best.Seen
+			}
+			if c.wantNewest != c.newest {
+				want.Newest = want.Final
+			}
+			expectForce(t, fmt.Sprint(c, ", with ", known), s, c.final+65, want)
+		}
+	}
+	// Nor is it another one where the committees go on alone.
+	s := forcible(66, 0, plan{seen: 65, slot: 70, next: 2, bits: bitsOf(3), by: 1})
+	s.Newest = lightOf(3, zeros)
+	want := s
+	want.Next, want.Best, want.Has, want.Forced = committee(2), api.Update{}, false, true
+	expectForce(t, "Next alone", s, 131, want)
 }
 
 // P14.4: stores that came from nowhere: more than one period gone over leaves the committees.

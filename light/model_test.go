@@ -210,7 +210,7 @@ func madeStore(m *mixer) api.Store {
 	slot := oneOf[uint64](m, 0, 5, 8, 9, 61, 62, 63, 64, 65, 69)
 	number := int(slot/64) + 1
 	s := storeOf(slot, number, oneOf(m, 0, number+1, number+1))
-	s.Newest = lightOf(slot+oneOf[uint64](m, 0, 0, 1, 4, 60), made(32, 50))
+	s.Newest = lightOf(oneOf(m, slot, slot, slot+1, slot+4, slot+60, slot/2, 0), made(32, 50))
 	s.Last, s.This = oneOf(m, 0, 0, 9, 16, 17, 18), oneOf(m, 0, 0, 4, 10, 11, 16)
 	if m.below(2) == 0 {
 		s.Best, s.Has = madePlan(m).update(), true

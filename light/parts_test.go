@@ -232,14 +232,14 @@ func TestCheckAnotherNextParts(t *testing.T) {
 	expectCheck(t, "none, Next known", storeOf(5, 1, 2), p.update(), 10, api.OK)
 }
 
-// P14.2: the text that is signed, by the slot of the signature: its number, written out.
+// P14.2: the text that is signed, by the slot of the signature: its number, written out, 9 at most.
 func TestCheckTexts(t *testing.T) {
 	for _, c := range []struct{ slot, f uint64 }{
 		{1, 7}, {2, 7}, {63, 7}, {64, 7}, {65, 7}, {127, 7}, {128, 7},
-		{129, 8}, {130, 8}, {255, 8}, {256, 8}, {257, 9}, {384, 9}, {385, 10}, {512, 10}, {513, 11},
-		{640, 11}, {641, 12}, {768, 12}, {769, 13}, {896, 13}, {897, 14}, {1024, 14}, {1025, 15},
-		{1151, 15}, {1152, 15}, {1153, 16}, {1154, 16}, {1280, 16}, {1281, 16}, {1282, 16}, {1409, 16},
-		{1 << 20, 16}, {1 << 32, 16}, {1 << 63, 16}, {greatest - 63, 16}, {greatest - 1, 16}, {greatest, 16},
+		{129, 8}, {130, 8}, {255, 8}, {256, 8},
+		{257, 9}, {258, 9}, {383, 9}, {384, 9}, {385, 9}, {386, 9}, {413, 9}, {512, 9}, {513, 9}, {640, 9}, {641, 9},
+		{1024, 9}, {1025, 9}, {1152, 9}, {1153, 9}, {1280, 9}, {1281, 9}, {1409, 9},
+		{1 << 20, 9}, {1 << 32, 9}, {1 << 63, 9}, {greatest - 63, 9}, {greatest - 1, 9}, {greatest, 9},
 	} {
 		s := storeOf(c.slot/64*64, 1, 0)
 		p := plan{seen: c.slot - 1, slot: c.slot, bits: 5, by: 1}

@@ -105,15 +105,15 @@ func plainCommitteeRoot(c api.Committee) string {
 // plainText is what is signed of a header, with the number F.
 func plainText(h api.Header, f uint64) string { return plainSum(plainHeaderRoot(h), plainNumber(f)) }
 
-// plainFork is the number F of a slot: one more where each 128 slots are gone by.
+// plainFork is the number F of a slot: one more behind 128 slots, and behind as many again; no more behind these.
 func plainFork(slot uint64) uint64 {
-	f := uint64(7)
-	for _, last := range []uint64{128, 256, 384, 512, 640, 768, 896, 1024, 1152} {
-		if slot > last {
-			f++
-		}
+	switch {
+	case slot <= 128:
+		return 7
+	case slot <= 256:
+		return 8
 	}
-	return f
+	return 9
 }
 
 const committees = 6
